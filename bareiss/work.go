@@ -74,6 +74,10 @@ func (w *work) lift(k, column int) bool {
 func (w *work) clear(i, k, column int) {
 	from, row := w.rows[i], w.rows[k]
 	pivot, times := row[column], from[column]
+	if zint.Cmp(pivot, w.last) == 0 {
+		w.subtract(from, row, times)
+		return
+	}
 	for j, x := range from {
 		plus, minus := zint.Sign(x) != 0, zint.Sign(times) != 0 && zint.Sign(row[j]) != 0
 		switch {
@@ -83,6 +87,18 @@ func (w *work) clear(i, k, column int) {
 			from[j] = whole(zint.Mul(x, pivot), w.last)
 		case minus:
 			from[j] = whole(zint.Neg(zint.Mul(row[j], times)), w.last)
+		}
+	}
+}
+
+// subtract is clear's step where the pivot is the last one: it leaves the row as it is, but for what is taken from it.
+func (w *work) subtract(from, row []api.Int, times api.Int) {
+	if zint.Sign(times) == 0 {
+		return
+	}
+	for j, x := range row {
+		if zint.Sign(x) != 0 {
+			from[j] = zint.Sub(from[j], whole(zint.Mul(x, times), w.last))
 		}
 	}
 }
