@@ -35,10 +35,15 @@ func Vector(v api.Vec, n int) api.Errno {
 		return api.ErrDen
 	case len(v.Num) != n:
 		return api.ErrShape
-	case tooLong(v.Den, v.Num):
+	case LongVec(v):
 		return api.ErrTooBig
 	}
 	return api.OK
+}
+
+// LongVec: is one of a vector's entries too long?
+func LongVec(v api.Vec) bool {
+	return tooLong(v.Den, v.Num)
 }
 
 // Poly: ErrDen, ErrTooBig.
