@@ -137,11 +137,28 @@ func Mul(a, b api.Nat) api.Nat {
 	if len(a) == 0 || len(b) == 0 {
 		return nil
 	}
-	if len(a) <= 2 && len(b) <= 2 {
+	if len(a) < len(b) {
+		a, b = b, a
+	}
+	switch {
+	case len(a) <= 2:
 		high, low := bits.Mul64(word(a), word(b))
 		return narrow([]uint64{low, high})
+	case len(b) == 1:
+		return shortMul(a, b[0])
 	}
 	return narrow(product(wide(a), wide(b)))
+}
+
+// shortMul: the product with a limb.
+func shortMul(a api.Nat, w uint32) api.Nat {
+	out := make(api.Nat, len(a)+1)
+	next := scaler(w)
+	for i, x := range a {
+		out[i] = next(x)
+	}
+	out[len(a)] = next(0)
+	return trim(out)
 }
 
 // Div: the quotient and what is left.

@@ -72,6 +72,17 @@ func subtracter() func(x, y uint32) uint32 {
 	}
 }
 
+// scaler multiplies limbs by w; what does not fit goes over to the next one.
+func scaler(w uint32) func(x uint32) uint32 {
+	carry := uint64(0)
+	return func(x uint32) uint32 {
+		carry += uint64(x) * uint64(w)
+		low := uint32(carry)
+		carry >>= 32
+		return low
+	}
+}
+
 // lifter shifts limbs up by n below 32, from the lowest one on.
 func lifter(n uint) func(x uint32) uint32 {
 	carry := uint64(0)
